@@ -14,7 +14,7 @@ func (r *reader) atom() api.Expr {
 	case t.Kind == api.TkLow:
 		return r.named()
 	case t.Kind == api.TkUp:
-		return api.Expr{Kind: api.ExCon, At: t.At, Name: r.take().Text, Kids: optional(r, r.expr)}
+		return wholeExpr(api.Expr{Kind: api.ExCon, At: t.At, Name: r.take().Text, Kids: optional(r, r.expr)})
 	case r.stands("("):
 		return r.several()
 	}
@@ -33,9 +33,9 @@ func (r *reader) named() api.Expr {
 	}
 	kids := inside(r, ",", api.MaxParams, r.expr)
 	if op, ok := operator(t.Text); ok {
-		return api.Expr{Kind: api.ExOp, At: t.At, Num: op, Kids: kids}
+		return wholeExpr(api.Expr{Kind: api.ExOp, At: t.At, Num: op, Kids: kids})
 	}
-	return api.Expr{Kind: api.ExCall, At: t.At, Name: t.Text, Kids: kids}
+	return wholeExpr(api.Expr{Kind: api.ExCall, At: t.At, Name: t.Text, Kids: kids})
 }
 
 // several takes expressions in parentheses; one alone is itself.
@@ -45,7 +45,7 @@ func (r *reader) several() api.Expr {
 	if len(kids) == 1 {
 		return kids[0]
 	}
-	return api.Expr{Kind: api.ExTuple, At: at, Kids: kids}
+	return wholeExpr(api.Expr{Kind: api.ExTuple, At: at, Kids: kids})
 }
 
 func (r *reader) pat() api.Pat {
@@ -56,7 +56,7 @@ func (r *reader) pat() api.Pat {
 	case t.Kind == api.TkLow:
 		return api.Pat{Kind: api.PtVar, At: t.At, Name: r.take().Text}
 	case t.Kind == api.TkUp:
-		return api.Pat{Kind: api.PtCon, At: t.At, Name: r.take().Text, Kids: optional(r, r.pat)}
+		return wholePat(api.Pat{Kind: api.PtCon, At: t.At, Name: r.take().Text, Kids: optional(r, r.pat)})
 	case r.stands("("):
 		return r.severalPats()
 	}
@@ -71,7 +71,7 @@ func (r *reader) severalPats() api.Pat {
 	if len(kids) == 1 {
 		return kids[0]
 	}
-	return api.Pat{Kind: api.PtTuple, At: at, Kids: kids}
+	return wholePat(api.Pat{Kind: api.PtTuple, At: at, Kids: kids})
 }
 
 // optional takes parts in parentheses, if these stand here.

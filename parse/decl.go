@@ -14,7 +14,7 @@ func (r *reader) prog() api.Prog {
 		r.decl(&d)
 	}
 	if !d.queue || !d.state {
-		r.later(api.ErrMiss, r.next().At)
+		panic(api.Fault{Err: api.ErrMiss, At: r.next().At})
 	}
 	return d.Prog
 }
@@ -112,8 +112,4 @@ func (r *reader) param() api.Param {
 	return p
 }
 
-// body is the whole expression behind a =.
-func (r *reader) body() api.Expr {
-	r.want("=")
-	return r.whole()
-}
+func (r *reader) body() api.Expr { return r.behind("=") }

@@ -2,13 +2,6 @@ package parse
 
 import "handloom/api"
 
-// whole takes an expression that is no part of another one.
-func (r *reader) whole() api.Expr {
-	e := r.expr()
-	r.exprDepth(e)
-	return e
-}
-
 func (r *reader) expr() api.Expr {
 	switch r.word() {
 	case "let":
@@ -33,13 +26,13 @@ func (r *reader) let() api.Expr {
 	e := api.Expr{Kind: api.ExLet, At: r.take().At}
 	e.Name = r.low()
 	e.Kids = []api.Expr{r.behind("="), r.behind("in")}
-	return e
+	return wholeExpr(e)
 }
 
 func (r *reader) cond() api.Expr {
 	e := api.Expr{Kind: api.ExIf, At: r.next().At}
 	e.Kids = []api.Expr{r.behind("if"), r.behind("then"), r.behind("else")}
-	return e
+	return wholeExpr(e)
 }
 
 func (r *reader) match() api.Expr {
@@ -49,7 +42,7 @@ func (r *reader) match() api.Expr {
 	r.skip("|")
 	e.Arms = list(r, "|", api.MaxArms, r.arm)
 	r.want("end")
-	return e
+	return wholeExpr(e)
 }
 
 func (r *reader) arm() api.Arm { return api.Arm{Pat: r.pat(), Body: r.behind("->")} }
@@ -60,7 +53,7 @@ func (r *reader) loop() api.Expr {
 	r.want("with")
 	e.Name = r.low()
 	e.Kids = []api.Expr{r.behind("="), r.behind("do")}
-	return e
+	return wholeExpr(e)
 }
 
 // cmp takes two sums at most: what two of them say is no number.
@@ -90,7 +83,7 @@ func (r *reader) chain(operator func(sign string) (int64, bool), part func() api
 
 // op takes an operator's sign, and what is on its right.
 func (r *reader) op(op int64, left api.Expr, right func() api.Expr) api.Expr {
-	return api.Expr{Kind: api.ExOp, At: r.take().At, Num: op, Kids: []api.Expr{left, right()}}
+	return wholeExpr(api.Expr{Kind: api.ExOp, At: r.take().At, Num: op, Kids: []api.Expr{left, right()}})
 }
 
 func comparison(sign string) (int64, bool) {

@@ -188,18 +188,17 @@ type frame struct {
 	name        api.Token
 }
 
-// judge goes through tokens that may stand where they are, and gathers what else is wrong with them.
+// judge goes through tokens that may stand where they are, and gathers what else is wrong, as it is met: of a token where it stands, of a call where it is closed.
 type judge struct {
 	g      *grammar
 	frames []*frame
 	begins *frame // whose next part begins at the next token
 	words  map[string]int
-	early  []api.Fault
-	late   []api.Fault
+	faults []api.Fault
 }
 
 func (j *judge) wrong(err api.Errno, t api.Token) {
-	j.early = append(j.early, api.Fault{Err: err, At: t.At})
+	j.faults = append(j.faults, api.Fault{Err: err, At: t.At})
 }
 
 func (j *judge) open(head string, most int, name api.Token) {
@@ -319,15 +318,8 @@ func (j *judge) lists(t, ahead api.Token, where []item) {
 func (j *judge) counted(f *frame) {
 	want, ok := map[string]int{"len": 1, "at": 2, "cat": 2, "cut": 3}[f.name.Text]
 	if ok && f.count != want {
-		j.late = append(j.late, api.Fault{Err: api.ErrCount, At: f.name.At})
+		j.wrong(api.ErrCount, f.name)
 	}
-}
-
-func placeAhead(a, b api.Fault) int {
-	if a.At.Line != b.At.Line {
-		return a.At.Line - b.At.Line
-	}
-	return a.At.Col - b.At.Col
 }
 
 // wantFault is what is wrong with a text that is not too deep anywhere, by the chapter's words.
@@ -345,13 +337,10 @@ func (g *grammar) wantFault(start, src string) api.Fault {
 		j.wrong(api.ErrWant, tokens[len(where)])
 	}
 	if start == "Prog" && (j.words["queue"] == 0 || j.words["state"] == 0) {
-		j.late = append(j.late, api.Fault{Err: api.ErrMiss, At: tokens[len(tokens)-1].At})
+		j.wrong(api.ErrMiss, tokens[len(tokens)-1])
 	}
-	for _, l := range [][]api.Fault{j.early, j.late} {
-		if len(l) > 0 {
-			slices.SortStableFunc(l, placeAhead)
-			return l[0]
-		}
+	if len(j.faults) > 0 {
+		return j.faults[0]
 	}
 	return api.Fault{}
 }

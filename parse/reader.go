@@ -9,7 +9,6 @@ import (
 type reader struct {
 	tokens []api.Token // those that are not taken yet
 	full   bool        // the part that begins here is one too many
-	late   api.Fault   // what is told when all is read
 }
 
 // read is what a part of the form makes of all of a text; here each fault that is thrown is caught.
@@ -32,17 +31,13 @@ func read[T any](src string, part func(r *reader) T) (made T, fault api.Fault) {
 	}
 	r := reader{tokens: tokens}
 	made = part(&r)
-	r.leave()
+	r.wantEnd()
 	return made, api.Fault{}
 }
 
-// leave wants the end behind all that was read, and tells what had to wait for it.
-func (r *reader) leave() {
+func (r *reader) wantEnd() {
 	if !r.ended() {
 		panic(r.unwanted())
-	}
-	if r.late.Err != api.OK {
-		panic(r.late)
 	}
 }
 

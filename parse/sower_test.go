@@ -146,3 +146,100 @@ func (s *sower) aProg(depth int) api.Prog {
 }
 
 func wantOperands(op int64) int { return []int{2, 2, 2, 2, 2, 2, 2, 2, 1, 2, 2, 3}[op] }
+
+// steepType is fit but for its depth, which is just that much.
+func (s *sower) steepType(depth int) api.Type {
+	if depth == 1 {
+		return s.aType(1)
+	}
+	parts := some(2+s.below(2), func() api.Type { return s.aType(1) })
+	parts[s.below(len(parts))] = s.steepType(depth - 1)
+	return api.Type{Kind: api.TyTuple, Parts: parts}
+}
+
+// steepPat is fit but for its depth, which is just that much.
+func (s *sower) steepPat(depth int) api.Pat {
+	if depth == 1 {
+		return s.aPat(1)
+	}
+	p := s.aPat(2)
+	for len(p.Kids) == 0 {
+		p = s.aPat(2)
+	}
+	p.Kids[s.below(len(p.Kids))] = s.steepPat(depth - 1)
+	return p
+}
+
+// steepExpr is fit but for its depth, which is just that much, or more; of so many calls of an operator about one has another number of parts.
+func (s *sower) steepExpr(depth, right int) api.Expr {
+	if depth == 1 {
+		return s.anExpr(1)
+	}
+	e := s.anExpr(2)
+	for len(e.Kids) == 0 {
+		e = s.anExpr(2)
+	}
+	if e.Kind == api.ExOp && e.Num >= api.OpLen && s.below(right) == 0 {
+		e.Kids = some(1+s.below(6), func() api.Expr { return s.anExpr(1) })
+	}
+	switch {
+	case e.Kind == api.ExMatch && s.below(12) == 0:
+		e.Arms[s.below(len(e.Arms))].Pat = s.steepPat(depth - 1)
+	case e.Kind == api.ExMatch && s.below(2) == 0:
+		e.Arms[s.below(len(e.Arms))].Body = s.steepExpr(depth-1, right)
+	default:
+		e.Kids[s.below(len(e.Kids))] = s.steepExpr(depth-1, right)
+	}
+	return e
+}
+
+// steepProg has up to three parts that are about so deep.
+func (s *sower) steepProg(depth, right int) api.Prog {
+	p := s.aProg(2)
+	for range 1 + s.below(3) {
+		deep := depth - s.below(10)
+		switch {
+		case len(p.Datas) > 0 && s.below(2) == 0:
+			con := &p.Datas[s.below(len(p.Datas))].Cons[0]
+			con.Fields = append(some(s.below(3), func() api.Type { return s.aType(2) }), s.steepType(deep))
+		case len(p.Funs) > 0 && s.below(2) == 0:
+			f := &p.Funs[s.below(len(p.Funs))]
+			f.Params[s.below(len(f.Params))].Type, f.Body = s.steepType(deep), s.steepExpr(deep, right)
+		case len(p.Hands) > 0 && s.below(2) == 0:
+			h := &p.Hands[s.below(len(p.Hands))]
+			h.Param.Type, h.Body = s.steepType(deep), s.steepExpr(deep, right)
+		case s.below(3) == 0:
+			p.State = s.steepType(deep)
+		default:
+			p.Init = s.steepExpr(deep, right)
+		}
+	}
+	return p
+}
+
+func exprDepth(e api.Expr) int {
+	depth := 0
+	for _, kid := range e.Kids {
+		depth = max(depth, exprDepth(kid))
+	}
+	for _, arm := range e.Arms {
+		depth = max(depth, patDepth(arm.Pat), exprDepth(arm.Body))
+	}
+	return depth + 1
+}
+
+func patDepth(p api.Pat) int {
+	depth := 0
+	for _, kid := range p.Kids {
+		depth = max(depth, patDepth(kid))
+	}
+	return depth + 1
+}
+
+func typeDepth(t api.Type) int {
+	depth := 0
+	for _, part := range t.Parts {
+		depth = max(depth, typeDepth(part))
+	}
+	return depth + 1
+}

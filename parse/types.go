@@ -11,17 +11,7 @@ func isOwn(name string) bool {
 	return ok || isType(name)
 }
 
-// typ takes a type that is no part of another one.
 func (r *reader) typ() api.Type {
-	at := r.next().At
-	t := r.typePart()
-	if typeDepth(t) > api.MaxDepth {
-		r.later(api.ErrDeep, at)
-	}
-	return t
-}
-
-func (r *reader) typePart() api.Type {
 	if r.stands("(") {
 		return r.tuple()
 	}
@@ -37,11 +27,12 @@ func (r *reader) typePart() api.Type {
 
 // tuple takes at least two parts: one alone wants the sign that stands between two.
 func (r *reader) tuple() api.Type {
+	at := r.next().At
 	r.want("(")
-	l := list(r, "*", api.MaxFields, r.typePart)
+	l := list(r, "*", api.MaxFields, r.typ)
 	if len(l) == 1 {
 		panic(r.unwanted())
 	}
 	r.want(")")
-	return api.Type{Kind: api.TyTuple, Parts: l}
+	return wholeType(api.Type{Kind: api.TyTuple, Parts: l}, at)
 }

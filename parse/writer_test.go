@@ -8,12 +8,31 @@ import (
 	"handloom/lex"
 )
 
-// writer writes trees as texts that are read as them, and tells them with the places at which it wrote them. What may be left out, or stand there more than once, it writes as its sower says.
+// writer writes trees as texts that are read as them, and tells them with the places at which it wrote them, and which of their parts are wrong as a whole. What may be left out, or stand there more than once, it writes as its sower says.
 type writer struct {
-	s    *sower
-	out  strings.Builder
-	at   api.Pos
-	wide bool // blanks and remarks stand between all tokens
+	s      *sower
+	out    strings.Builder
+	at     api.Pos
+	wide   bool      // blanks and remarks stand between all tokens
+	bad    []badPart // in the order in which they ended
+	places []api.Pos // where each token was written
+}
+
+// badPart is what is wrong with a part of which all is written, and where its text ends.
+type badPart struct {
+	end   int
+	fault api.Fault
+}
+
+func (w *writer) wrong(err api.Errno, at api.Pos) {
+	w.bad = append(w.bad, badPart{w.out.Len(), api.Fault{Err: err, At: at}})
+}
+
+// measure tells of a part of which all is written whether it is too deep.
+func (w *writer) measure(depth int, at api.Pos) {
+	if depth > api.MaxDepth {
+		w.wrong(api.ErrDeep, at)
+	}
 }
 
 func newWriter(s *sower) *writer { return &writer{s: s, at: api.Pos{Line: 1, Col: 1}} }
@@ -48,6 +67,7 @@ func (w *writer) put(token string) api.Pos {
 		w.gap()
 	}
 	at := w.at
+	w.places = append(w.places, at)
 	w.raw(token)
 	return at
 }
@@ -81,9 +101,11 @@ func (w *writer) typ(t api.Type) api.Type {
 	case api.TyData:
 		w.put(t.Name)
 	case api.TyTuple:
+		open := w.peek()
 		w.put("(")
 		written(w, "*", t.Parts, w.typ)
 		w.put(")")
+		w.measure(typeDepth(t), open())
 	}
 	return t
 }
@@ -116,20 +138,14 @@ func (w *writer) pat(p api.Pat) api.Pat {
 		p.Kids = w.pats(p.Kids)
 		p.At = open()
 	}
+	w.measure(patDepth(p), p.At)
 	return p
 }
 
 // peek tells, later on, where the next token was written.
 func (w *writer) peek() func() api.Pos {
-	from, at := w.out.Len(), w.at
-	return func() api.Pos {
-		l, _ := lex.Lex(w.out.String()[from:])
-		t := l[0].At
-		if t.Line == 1 {
-			return api.Pos{Line: at.Line, Col: at.Col + t.Col - 1}
-		}
-		return api.Pos{Line: at.Line + t.Line - 1, Col: t.Col}
-	}
+	next := len(w.places)
+	return func() api.Pos { return w.places[next] }
 }
 
 func (w *writer) exprs(l []api.Expr) []api.Expr {
@@ -155,6 +171,16 @@ func (w *writer) expr(e api.Expr, rank int) api.Expr {
 	if rankOf(e) < rank || w.maybe() {
 		return w.exprs([]api.Expr{e})[0]
 	}
+	e = w.bare(e)
+	if e.Kind == api.ExOp && len(e.Kids) != wantOperands(e.Num) {
+		w.wrong(api.ErrCount, e.At)
+	}
+	w.measure(exprDepth(e), e.At)
+	return e
+}
+
+// bare writes an expression without parentheses round it.
+func (w *writer) bare(e api.Expr) api.Expr {
 	switch e.Kind {
 	case api.ExInt:
 		e.At = w.num(e.Num)

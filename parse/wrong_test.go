@@ -252,7 +252,7 @@ func TestErrName(t *testing.T) {
 	}
 }
 
-// P5.2: told when all is read
+// P5.1, P5.2: told when all of the call is read, ahead of what is wrong behind it
 func TestErrCount(t *testing.T) {
 	for name, want := range map[string]int{"len": 1, "at": 2, "cat": 2, "cut": 3} {
 		for count := 1; count <= 6; count++ {
@@ -265,22 +265,32 @@ func TestErrCount(t *testing.T) {
 			}
 			fails(t, src, api.ErrCount, 1)
 			fails(t, "1 + "+src, api.ErrCount, 5)
-			fails(t, src+" 1", api.ErrWant, len(src)+2)
-			fails(t, src+" + int(1)", api.ErrName, len(src)+4)
+			fails(t, src+" 1", api.ErrCount, 1)
+			fails(t, src+"(", api.ErrCount, 1)
+			fails(t, src+" + int(1)", api.ErrCount, 1)
+			fails(t, "f(1, "+src+" 1", api.ErrCount, 6)
+			fails(t, "("+src+" + ", api.ErrCount, 2)
+			fails(t, strings.TrimSuffix(src, ")"), api.ErrWant, len(src))
+			fails(t, strings.TrimSuffix(src, ")")+" 1)", api.ErrWant, len(src)+1)
+			fails(t, strings.TrimSuffix(src, "1)")+"int(1))", api.ErrName, len(src)-1)
 			fails(t, "f("+src+", "+src+")", api.ErrCount, 3)
-			fails(t, name+"("+strings.Repeat(src+",", count-1)+src+")", api.ErrCount, 1)
+			fails(t, name+"("+strings.Repeat(src+",", count-1)+src+")", api.ErrCount, len(name)+2)
 			fails(t, "match x with _ -> "+src+" end", api.ErrCount, 19)
 			failsProg(t, "fun f(x : int) : int = "+src, api.ErrCount, 1, 24)
 			failsProg(t, "on f(x : int cap 0) =\n "+src, api.ErrCount, 2, 2)
 			failsProg(t, "state int cap 0 = "+src, api.ErrCount, 1, 19)
-			failsProg(t, "state int cap 0 = "+src+" queue 0", api.ErrRange, 1, 19+len(src)+7)
-			failsProg(t, "state int cap 0 = "+src+" queue 1 state", api.ErrTwice, 1, 19+len(src)+9)
+			failsProg(t, "state int cap 0 = "+src+" queue 0", api.ErrCount, 1, 19)
+			failsProg(t, "queue 1 state int cap 0 = "+src+" queue 2", api.ErrCount, 1, 27)
+			failsProg(t, "queue 0 state int cap 0 = "+src, api.ErrRange, 1, 7)
+			failsProg(t, "fun f(x : int) : int = "+src+" type", api.ErrCount, 1, 24)
 		}
 		fails(t, name+"()", api.ErrWant, len(name)+2)
 		fails(t, name+"(1,1,1,1,1,1,1)", api.ErrMany, len(name)+14)
 		fails(t, name+"(1,1,1,1,1,1,)", api.ErrWant, len(name)+14)
 	}
-	fails(t, "len(at(1), 2)", api.ErrCount, 1)
+	fails(t, "len(at(1), 2)", api.ErrCount, 5)
+	fails(t, "at(len(1, 2), e", api.ErrCount, 4)
+	fails(t, "len(1, 2, at(1, 2), cut(1))", api.ErrCount, 21)
 	fails(t, "len(at(1))", api.ErrCount, 5)
 	fails(t, "(at(1), len(1, 2))", api.ErrCount, 2)
 }
@@ -372,7 +382,7 @@ func TestTheFirstFromTheLeft(t *testing.T) {
 		col int
 	}{
 		{"1 )", api.ErrWant, 3}, {"f(1,2,3,4,5,6,7)", api.ErrMany, 15}, {"for 1001 with x = 1 do 1", api.ErrRange, 5}, {"int(1)", api.ErrName, 1},
-		{"Nil()", api.ErrWant, 5},
+		{"Nil()", api.ErrWant, 5}, {"(cut(1)", api.ErrCount, 2}, {"f(len(1, 2)", api.ErrCount, 3}, {nest(65, "f(", "1", ")"), api.ErrDeep, 3},
 	}
 	for _, a := range wrong {
 		for _, b := range wrong {
@@ -381,8 +391,10 @@ func TestTheFirstFromTheLeft(t *testing.T) {
 			failsProg(t, "queue 1 queue\nstate int cap 0 = "+b.src, api.ErrTwice, 1, 9)
 			failsProg(t, "type t = A type int\nstate int cap 0 = "+b.src, api.ErrTwice, 1, 17)
 		}
-		fails(t, "(len(1, 2), let x = "+a.src, a.err, a.col+20)
-		failsProg(t, "fun f(x : int) : int = cut(1) state int cap 0 = "+a.src, a.err, 1, a.col+48)
+		fails(t, "(len(1, 2), let x = "+a.src, api.ErrCount, 2)
+		fails(t, "len(1, 2, let x = "+a.src, a.err, a.col+18)
+		failsProg(t, "fun f(x : int) : int = cut(1) state int cap 0 = "+a.src, api.ErrCount, 1, 24)
+		failsProg(t, "state int cap 0 = "+a.src+" on f(x : int cap 0) = cut(1)", a.err, 1, a.col+18)
 	}
 }
 
