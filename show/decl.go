@@ -8,12 +8,11 @@ import (
 
 // prog is a program's declarations, in the order of its text.
 func prog(p api.Prog) []part {
-	alone := row{row{mark("queue"), count(p.Queue)}}
-	// a program without them has none
-	if p.Timers > 0 {
-		alone = append(alone, row{mark("timers"), count(p.Timers)})
+	alone := row{
+		row{mark("queue"), count(p.Queue)},
+		row{mark("timers"), count(p.Timers)},
+		state(p),
 	}
-	alone = append(alone, state(p))
 	return slices.Concat(each(p.Datas, data), each(p.Funs, fun), alone, each(p.Hands, hand))
 }
 

@@ -127,9 +127,7 @@ func wantProg(p api.Prog) string {
 		l = append(l, "fun "+f.Name+" ( "+joined(" , ", f.Params, wantParam)+" ) : "+wantType(f.Result)+" = "+wantExpr(f.Body))
 	}
 	l = append(l, "queue "+strconv.Itoa(p.Queue))
-	if p.Timers != 0 {
-		l = append(l, "timers "+strconv.Itoa(p.Timers))
-	}
+	l = append(l, "timers "+strconv.Itoa(p.Timers))
 	l = append(l, "state "+wantType(p.State)+" cap "+strconv.Itoa(p.Cap)+" = "+wantExpr(p.Init))
 	for _, h := range p.Hands {
 		l = append(l, "on "+h.Name+" ( "+wantParam(h.Param)+" cap "+strconv.Itoa(h.Cap)+" ) = "+wantExpr(h.Body))

@@ -218,10 +218,10 @@ state bytes cap 4 = "a\x0a"
 on add ( n : int cap 5 ) = ( state , Done )
 on sub ( l : list cap 64 ) = ( "" , Say ( 1 , Done ) )
 `)
-	showsProg(t, api.Prog{Queue: 1}, "queue 1\nstate int cap 0 = 0\n")
+	showsProg(t, api.Prog{Queue: 1}, "queue 1\ntimers 0\nstate int cap 0 = 0\n")
 	p := sample()
 	p.Timers = 0
-	showsProg(t, p, strings.Replace(wantProg(sample()), "timers 3\n", "", 1))
+	showsProg(t, p, strings.Replace(wantProg(sample()), "timers 3\n", "timers 0\n", 1))
 	p.Timers, p.Queue, p.Cap = 32, 32, 256
 	showsProg(t, p, strings.NewReplacer("timers 3", "timers 32", "queue 2", "queue 32", "bytes cap 4", "bytes cap 256").Replace(wantProg(sample())))
 	p = api.Prog{Queue: 3, Timers: 1, State: tupleType(bytesType(), data("t")), Init: let("x", num(1), op(api.OpAdd, num(1), num(2)))}

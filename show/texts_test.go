@@ -221,7 +221,7 @@ func TestTextsByHand(t *testing.T) {
 		}
 	}
 	src := "on a(x:int cap 1)=x state(int*t)cap 2=y timers 0 queue 9 fun f(x:t):t=x type t=A|B of int fun g(x:t):t=x type u=C on b(x:int cap 1)=x"
-	want := "type t = A | B of int\ntype u = C\nfun f ( x : t ) : t = x\nfun g ( x : t ) : t = x\nqueue 9\nstate ( int * t ) cap 2 = y\non a ( x : int cap 1 ) = x\non b ( x : int cap 1 ) = x\n"
+	want := "type t = A | B of int\ntype u = C\nfun f ( x : t ) : t = x\nfun g ( x : t ) : t = x\nqueue 9\ntimers 0\nstate ( int * t ) cap 2 = y\non a ( x : int cap 1 ) = x\non b ( x : int cap 1 ) = x\n"
 	p, fault := parse.Parse(src)
 	if got := show.Prog(p); fault != (api.Fault{}) || got != want {
 		t.Errorf("%q is shown as %q, want %q: fault %v", src, got, want, fault)
