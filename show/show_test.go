@@ -219,6 +219,7 @@ on add ( n : int cap 5 ) = ( state , Done )
 on sub ( l : list cap 64 ) = ( "" , Say ( 1 , Done ) )
 `)
 	showsProg(t, api.Prog{Queue: 1}, "queue 1\ntimers 0\nstate int cap 0 = 0\n")
+	showsProg(t, api.Prog{Queue: 1, State: data("e")}, "queue 1\ntimers 0\nstate e cap 0 = 0\n")
 	p := sample()
 	p.Timers = 0
 	showsProg(t, p, strings.Replace(wantProg(sample()), "timers 3\n", "timers 0\n", 1))
